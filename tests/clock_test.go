@@ -805,6 +805,7 @@ func mostOf(random *rand.Rand, c impl.Clock, rounds int) [][]int64 {
 }
 
 func TestClockByHand(t *testing.T) {
+	t.Parallel()
 	random := rand.New(rand.NewSource(120))
 	counts := map[string]int{}
 	for i := range 220 {

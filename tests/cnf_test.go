@@ -458,6 +458,7 @@ func TestCnfOfTheMostThereIs(t *testing.T) {
 }
 
 func TestCnfOfByHand(t *testing.T) {
+	t.Parallel()
 	random := rand.New(rand.NewSource(7))
 	for i := range 2000 {
 		table := crowdedTable(random, impl.MaxStations)

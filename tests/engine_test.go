@@ -1249,6 +1249,7 @@ func TestEngineTellsLinesOneByOne(t *testing.T) {
 
 // Promise 26: what is refused, or only asks, may as well not be there.
 func TestWhatIsRefusedOrAsksChangesNothing(t *testing.T) {
+	t.Parallel()
 	random := rand.New(rand.NewSource(27))
 	refused, asking, changing := 0, 0, 0
 	for range 250 {

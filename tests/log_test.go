@@ -533,6 +533,7 @@ func notRecords() map[string]string {
 
 // Bytes that are no record end the log, whatever records stand behind them.
 func TestLogBehindWhatIsNoRecord(t *testing.T) {
+	t.Parallel()
 	ahead := []string{"station 1 10 2 3", "station 2 5 2 4"}
 	text := recordsOf(ahead...)
 	for what, bad := range notRecords() {
@@ -637,6 +638,7 @@ func fullLog(count int) []string {
 }
 
 func TestLogOfMaxListLines(t *testing.T) {
+	t.Parallel()
 	for what, list := range map[string]func(int) []string{"taken": longLog, "taken or not": fullLog} {
 		for _, count := range []int{impl.MaxList - 1, impl.MaxList, impl.MaxList + 1, impl.MaxList + 30} {
 			what := fmt.Sprintf("%d lines, %s", count, what)
@@ -699,6 +701,7 @@ func recordsOfSize(size int) string {
 
 // A disk so full that the record of a line just fits, and one byte fuller.
 func TestLogThatIsNearlyFull(t *testing.T) {
+	t.Parallel()
 	ahead := recordsOf("station 1 10 2 3", "station 2 5 2 4")
 	for _, line := range []string{"must 1", "same 1 2", "open 1000000 1000000 300 1000000000000 46 47 48 49 50 51", "station 999 1000 44 45 46 47 48 49 50 51"} {
 		room := allBytes - len(ahead) - len(recordsOf(line))
@@ -865,6 +868,7 @@ func TestLogRunOfHowManyLines(t *testing.T) {
 
 // A run that fills its disk ahead of its end: what does not fit is refused, what is shorter may still be taken.
 func TestLogRunOfMoreThanFits(t *testing.T) {
+	t.Parallel()
 	lines, stays := []string(nil), "round"
 	for id := 100; id < 112; id++ {
 		lines = append(lines, fmt.Sprint("station ", id, " 1000 44 45 46 47 48 49 50 51"))
@@ -898,6 +902,7 @@ func TestLogRunOfMoreThanFits(t *testing.T) {
 
 // LogRun tells what LogDo tells, line by line, by hand, whatever the last line is.
 func TestLogRunByHand(t *testing.T) {
+	t.Parallel()
 	random := rand.New(rand.NewSource(161))
 	last := map[bool]int{}
 	for range 40 {
@@ -936,6 +941,7 @@ func wrongLogs() map[string]impl.Disk {
 
 // A disk that is not right is refused by that, ahead of what the line is; only one that is too long comes first.
 func TestLogOfWrongDisks(t *testing.T) {
+	t.Parallel()
 	for what, d := range wrongLogs() {
 		before := kept(d)
 		wantReplies(t, what, impl.LogLines(d), nil)
@@ -999,6 +1005,7 @@ func anyDisk(random *rand.Rand) impl.Disk {
 }
 
 func TestLogOfAnyDiskByHand(t *testing.T) {
+	t.Parallel()
 	random := rand.New(rand.NewSource(162))
 	counts := map[string]int{}
 	for range 500 {
@@ -1036,6 +1043,7 @@ func logCalls(line string) map[string]func(impl.Disk) impl.Disk {
 }
 
 func TestLogChangesAndSharesNothing(t *testing.T) {
+	t.Parallel()
 	random := rand.New(rand.NewSource(163))
 	disks := []impl.Disk{}
 	for range 150 {

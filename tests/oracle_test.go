@@ -257,6 +257,7 @@ func TestAskAllWithinEachBudget(t *testing.T) {
 
 // Verdicts around MaxSolve steps: what needs just so many is told, what needs one more is not.
 func TestAskAllAroundMaxSolve(t *testing.T) {
+	t.Parallel()
 	for more := range 4 {
 		table, steps := longYes(more), int64(298+more)
 		ids := idsByHand(table)
@@ -452,6 +453,7 @@ func TestAskOneAtItsEdges(t *testing.T) {
 
 // Around MaxSolve steps: a Station that comes to a plan only if others are moved, and one that can't.
 func TestAskOneAroundMaxSolve(t *testing.T) {
+	t.Parallel()
 	for more := range 4 {
 		table, steps := longYes(more), int64(298+more)
 		// Station 7 is left no channel, as long as Station 1 does not go to 40.
@@ -637,6 +639,7 @@ func planCase(random *rand.Rand, table impl.Table, top int64, ids []int64) ([]im
 }
 
 func TestAskByHand(t *testing.T) {
+	t.Parallel()
 	random := rand.New(rand.NewSource(11))
 	all, one := map[int64]int{}, map[[2]int64]int{}
 	for i := range 500 {
@@ -669,6 +672,7 @@ func TestAskByHand(t *testing.T) {
 
 // AskSteps says the same as AskAll of the same ids within MaxSolve.
 func TestAskStepsAreThoseOfAskAll(t *testing.T) {
+	t.Parallel()
 	random := rand.New(rand.NewSource(1111))
 	unknown := 0
 	for i := range 1500 {
@@ -728,6 +732,7 @@ func wantPromise16(t *testing.T, what string, table impl.Table, top int64, ids [
 
 // Promise 16.
 func TestAnswersAreRightAndNotTurnedRound(t *testing.T) {
+	t.Parallel()
 	random := rand.New(rand.NewSource(16))
 	all, one := map[int64]int{}, map[[2]int64]int{}
 	for i := range 500 {
@@ -765,6 +770,7 @@ func TestAnswersAreRightAndNotTurnedRound(t *testing.T) {
 
 // Promise 17: who is kept out by a No has no channel in any plan of these Stations, whatever is moved; who is not, has one.
 func TestStationKeptOutCouldHaveNoChannel(t *testing.T) {
+	t.Parallel()
 	random := rand.New(rand.NewSource(17))
 	kept, came := 0, 0
 	for i := range 2500 {
@@ -883,6 +889,7 @@ func changedAnswers(a impl.AskOut, table impl.Table) map[string]impl.AskOut {
 }
 
 func TestAnswerThatIsChanged(t *testing.T) {
+	t.Parallel()
 	random := rand.New(rand.NewSource(12))
 	counts := map[[2]any]int{}
 	for i := range 80 {
@@ -1063,6 +1070,7 @@ func TestAskedStaysAsItIs(t *testing.T) {
 
 // Stations at each limit: as many as there may be, of as many channels, in as many Pairs.
 func TestAskOfTheMostThereIs(t *testing.T) {
+	t.Parallel()
 	table := impl.Table{Stations: stationsOf(impl.MaxStations), Pairs: pairsOf(impl.MaxStations, impl.MaxPairs)}
 	for i := range table.Stations {
 		table.Stations[i].Domain = channels(2, impl.MaxDomain)

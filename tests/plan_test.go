@@ -301,6 +301,7 @@ func TestPlanFaultOfWrongTables(t *testing.T) {
 }
 
 func TestPlanFaultByHand(t *testing.T) {
+	t.Parallel()
 	random := rand.New(rand.NewSource(5))
 	counts := map[int64]int{}
 	for range 20000 {
@@ -452,6 +453,7 @@ func TestPlanAddHasNoFreeChannel(t *testing.T) {
 
 // Promise 9.
 func TestAddedStationLeavesTheOthers(t *testing.T) {
+	t.Parallel()
 	random := rand.New(rand.NewSource(9))
 	added, refused := 0, 0
 	for range 2500 {

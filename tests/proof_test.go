@@ -367,6 +367,7 @@ func TestProofOfWrongClauses(t *testing.T) {
 
 // Lemmas that are not right do not follow, whatever the clauses: each is told at its place.
 func TestProofOfWrongLemmas(t *testing.T) {
+	t.Parallel()
 	for what, c := range map[string]impl.Cnf{
 		"no clause":     {Vars: 5},
 		"a clause":      {Vars: 5, Clauses: [][]int64{{2, 3}}},
@@ -422,6 +423,7 @@ func proofCase(random *rand.Rand, vars int64) (impl.Cnf, [][]int64) {
 }
 
 func TestProofByHandOfWhatMayBeWrong(t *testing.T) {
+	t.Parallel()
 	random := rand.New(rand.NewSource(100))
 	codes, kinds := map[int64]int{}, map[string]int{}
 	for range 8000 {
@@ -499,6 +501,7 @@ func wantPromise15(t *testing.T, c impl.Cnf, out impl.SolveOut) {
 
 // Promises 14 and 15, of clauses of any kind and budgets of all sizes.
 func TestWhatTheSolverSaysIsShown(t *testing.T) {
+	t.Parallel()
 	random := rand.New(rand.NewSource(1415))
 	counts := map[int64]int{}
 	withLemmas := map[int64]int{}
@@ -524,6 +527,7 @@ func TestWhatTheSolverSaysIsShown(t *testing.T) {
 
 // Promises 14 and 15, of clauses at the edges, within each budget.
 func TestWhatTheSolverSaysAtTheEdgesIsShown(t *testing.T) {
+	t.Parallel()
 	cases := map[string]impl.Cnf{
 		"all signs of 2": {Vars: 2, Clauses: allSigns(2)},
 		"all signs of 5": {Vars: 5, Clauses: allSigns(5)},
@@ -627,6 +631,7 @@ func TestProofThatIsSpoiled(t *testing.T) {
 
 // A call that has the most to do: each lemma leads through a long chain, ahead of which stand many wide clauses.
 func TestProofOfTheMostThereIs(t *testing.T) {
+	t.Parallel()
 	c := impl.Cnf{Vars: impl.MaxVars, Clauses: repeated(impl.MaxClauses-96, append(countUp(-15, -1), 96)...)}
 	c.Clauses = append(c.Clauses, chain(impl.MaxVars, true)...)
 	c.Clauses = append(c.Clauses, []int64{-95, -94})

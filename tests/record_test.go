@@ -284,6 +284,7 @@ func TestRecsOfNothing(t *testing.T) {
 
 // Promise 5: every other byte, in every place behind those of the length, makes the sum wrong.
 func TestTurnedByteIsAWrongSum(t *testing.T) {
+	t.Parallel()
 	for _, r := range rightRecs()[:20] {
 		text := impl.RecBytes(r)
 		head := 1 + len(lengthOf(len(bodyByHand(uint64(r.Kind), uint64(len(r.Nums)), r.Nums...))))

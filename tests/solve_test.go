@@ -317,6 +317,7 @@ func TestSolveOfBudgetsAtTheEdges(t *testing.T) {
 
 // A verdict in just MaxSolve steps is told, one in a step more is not.
 func TestSolveThatNeedsJustMaxSolve(t *testing.T) {
+	t.Parallel()
 	for _, steps := range []int64{impl.MaxSolve - 1, impl.MaxSolve, impl.MaxSolve + 1} {
 		for what, c := range map[string]impl.Cnf{"a Yes": yesInSteps(steps), "a No": noInSteps(steps)} {
 			if what == "a No" && steps%2 == 0 {
@@ -339,6 +340,7 @@ func TestSolveThatNeedsJustMaxSolve(t *testing.T) {
 
 // Of MaxVars variables and no clause one is decided a step, and all are true in one step more.
 func TestSolveOfMaxVars(t *testing.T) {
+	t.Parallel()
 	c := impl.Cnf{Vars: impl.MaxVars}
 	for budget := int64(0); budget <= impl.MaxSolve; budget++ {
 		want := unknownIn(budget)
@@ -399,6 +401,7 @@ func TestSolveOfWrongClauses(t *testing.T) {
 }
 
 func TestSolveByHandOfWhatMayBeWrong(t *testing.T) {
+	t.Parallel()
 	random := rand.New(rand.NewSource(90))
 	counts := map[int64]int{}
 	for i := range 6000 {
@@ -457,6 +460,7 @@ func wantPromise31(t *testing.T, c impl.Cnf) impl.SolveOut {
 
 // Promise 31.
 func TestAGreaterBudgetSaysTheSameInTheSameSteps(t *testing.T) {
+	t.Parallel()
 	random := rand.New(rand.NewSource(3131))
 	counts := map[int64]int{}
 	far := 0

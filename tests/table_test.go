@@ -508,6 +508,7 @@ func TestTableWithOneByteOther(t *testing.T) {
 }
 
 func TestTableLinesMovedAbout(t *testing.T) {
+	t.Parallel()
 	random := rand.New(rand.NewSource(44))
 	read := 0
 	for range 3000 {

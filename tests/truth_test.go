@@ -832,6 +832,7 @@ func TestTruthByHand(t *testing.T) {
 
 // A run is its rounds and proceeds one by one; wherever its rounds are cut, it goes on from there to the same end.
 func TestTruthRunIsOneByOne(t *testing.T) {
+	t.Parallel()
 	random := rand.New(rand.NewSource(141))
 	counts := map[string]int{}
 	for i := range 1200 {
@@ -864,6 +865,7 @@ func TestTruthRunIsOneByOne(t *testing.T) {
 
 // What is handed in is changed in one thing: the run is refused, or goes, as by hand.
 func TestTruthOfWhatIsChanged(t *testing.T) {
+	t.Parallel()
 	random := rand.New(rand.NewSource(142))
 	codes := map[int64]int{}
 	for i := range 2000 {
@@ -963,6 +965,7 @@ func wantPromise24(t *testing.T, s impl.Stage, values []impl.Value, at int, othe
 
 // Promise 24.
 func TestToStayByOnesWorthIsBest(t *testing.T) {
+	t.Parallel()
 	random := rand.New(rand.NewSource(24))
 	counts := map[string]int{}
 	for i := range 800 {
@@ -1008,6 +1011,7 @@ func eachValues(greatest int64) [][]impl.Value {
 
 // Promises 24 and 25, of all Worths that three Stations may have, against all others that each may stay to.
 func TestToStayByOnesWorthIsBestInSmallAuctions(t *testing.T) {
+	t.Parallel()
 	counts := map[string]int{}
 	for _, s := range smallAuctions() {
 		greatest := openedAt(s, 0)
@@ -1051,6 +1055,7 @@ func wantPromise25(t *testing.T, s impl.Stage, values []impl.Value, proceeds []i
 
 // Promise 25.
 func TestWinnersArePaidTheirWorths(t *testing.T) {
+	t.Parallel()
 	random := rand.New(rand.NewSource(25))
 	counts := map[string]int{}
 	for i := range 1500 {
@@ -1085,6 +1090,7 @@ func TestWhoIsFrozenAsItIsOpened(t *testing.T) {
 
 // A run of the most Stations there may be through the most rounds ends in short time, and as one by one.
 func TestTruthOfTheMostThereIs(t *testing.T) {
+	t.Parallel()
 	table := longestTable()
 	s := impl.StageOpen(table, []int64{49, 50, 51}, impl.MaxPrice, 4000, impl.MaxSolve, []int64{988}, impl.MaxMoney).Stage
 	values := allWorth(table, 0)
@@ -1184,6 +1190,7 @@ func truthCalls(s impl.Stage, values []impl.Value, proceeds []int64) []func() im
 }
 
 func TestTruthChangesAndSharesNothing(t *testing.T) {
+	t.Parallel()
 	random := rand.New(rand.NewSource(144))
 	counts := map[string]int{}
 	for i := range 200 {
