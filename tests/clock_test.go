@@ -702,6 +702,7 @@ func TestClockRoundAsksInOrder(t *testing.T) {
 
 // The verdict behind as many steps as the budget has, and behind one more.
 func TestClockRoundWithinItsBudget(t *testing.T) {
+	t.Parallel()
 	table := longYes(0)
 	must := []int64{1, 2, 3, 4, 5, 7}
 	plan := impl.AskAll(table, 51, must, impl.MaxSolve).Plan
@@ -835,6 +836,7 @@ func TestClockByHand(t *testing.T) {
 
 // A clock that is changed in one thing is right, or not, as by hand, and tells what it tells then.
 func TestClockThatIsChanged(t *testing.T) {
+	t.Parallel()
 	random := rand.New(rand.NewSource(121))
 	counts := map[bool]int{}
 	for i := range 1500 {
@@ -876,6 +878,7 @@ func TestClockThatIsChanged(t *testing.T) {
 
 // Promise 18.
 func TestClockThatOpens(t *testing.T) {
+	t.Parallel()
 	random := rand.New(rand.NewSource(18))
 	codes := map[int64]int{}
 	for i := range 600 {
@@ -932,6 +935,7 @@ func openClock(random *rand.Rand, i int) impl.Clock {
 
 // Promises 19 and 20, round by round from the opening to the end.
 func TestClockRoundKeepsWhatItPromises(t *testing.T) {
+	t.Parallel()
 	random := rand.New(rand.NewSource(1920))
 	counts := map[string]int{}
 	for i := range 400 {
@@ -1018,6 +1022,7 @@ func wantOnTheAir(t *testing.T, what string, before impl.Clock, now impl.Clock) 
 
 // Promise 21.
 func TestClockEnds(t *testing.T) {
+	t.Parallel()
 	random := rand.New(rand.NewSource(21))
 	least, most := 0, 0
 	for i := range 400 {
@@ -1084,6 +1089,7 @@ func TestClockEndsAtTheLimits(t *testing.T) {
 
 // A run of the most Stations there may be, through the most rounds: it ends in short time, and as its rounds one by one.
 func TestClockOfTheMostThereIs(t *testing.T) {
+	t.Parallel()
 	table := longestTable()
 	c := impl.ClockOpen(table, 51, impl.MaxPrice, 2500, impl.MaxSolve, []int64{988}).Clock
 	list := slices.Repeat([][]int64{idsByHand(table)}, impl.MaxList)
@@ -1189,6 +1195,7 @@ func beyondClock(c impl.Clock) impl.Clock {
 }
 
 func TestClockChangesAndSharesNothing(t *testing.T) {
+	t.Parallel()
 	random := rand.New(rand.NewSource(123))
 	froze, exits := 0, 0
 	for i := range 400 {

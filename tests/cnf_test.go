@@ -578,6 +578,7 @@ func TestPlanOf(t *testing.T) {
 
 // Promise 11: there and back from each right plan.
 func TestRightPlansComeBackFromTheirTrues(t *testing.T) {
+	t.Parallel()
 	random := rand.New(rand.NewSource(11))
 	plans := 0
 	for i := range 600 {
@@ -608,6 +609,7 @@ func TestRightPlansComeBackFromTheirTrues(t *testing.T) {
 
 // Promise 11: there and back from all trues, and these are true just if they are a right plan's.
 func TestTruesAreTrueJustIfARightPlans(t *testing.T) {
+	t.Parallel()
 	random := rand.New(rand.NewSource(111))
 	trueOnes, faulty, none := 0, 0, 0
 	for range 2000 {

@@ -307,6 +307,7 @@ func TestCnfText(t *testing.T) {
 
 // Promise 12, of clauses.
 func TestRightClausesComeBack(t *testing.T) {
+	t.Parallel()
 	all := rightCnfs()
 	random := rand.New(rand.NewSource(12))
 	for i := range 2000 {
@@ -335,6 +336,7 @@ func TestRightClausesComeBack(t *testing.T) {
 }
 
 func TestClausesAtMaxBytes(t *testing.T) {
+	t.Parallel()
 	for what, both := range map[string][2]impl.Cnf{
 		"wide clauses":      {cnfOfSize(impl.MaxBytes), cnfOfSize(impl.MaxBytes + 1)},
 		"MaxClauses of one": {crowdOfSize(3986), crowdOfSize(3987)},
@@ -707,6 +709,7 @@ func TestClausesWithOneByteOther(t *testing.T) {
 }
 
 func TestClausesReadByHand(t *testing.T) {
+	t.Parallel()
 	random := rand.New(rand.NewSource(78))
 	words := []string{"0", "0", "1", "2", "-1", "-2", "3", "-3", "96", "97", "00", "-0", "+1", "01", "", "x", "-"}
 	read := map[bool]int{}

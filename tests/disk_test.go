@@ -366,6 +366,7 @@ func TestWritesFromOneDisk(t *testing.T) {
 
 // Promise 6, through long runs of all calls, held against bytes and two marks.
 func TestRunsOfADisk(t *testing.T) {
+	t.Parallel()
 	random := rand.New(rand.NewSource(6))
 	for range 200 {
 		d, synced := impl.Disk{}, ""

@@ -988,6 +988,7 @@ func TestEngineOfAsking(t *testing.T) {
 
 // The most that a table may have, typed line by line.
 func TestEngineOfTheMostThereIs(t *testing.T) {
+	t.Parallel()
 	table := longestTable()
 	lines := tableLines(table)
 	for _, id := range []int64{999, 988, 993} {
@@ -1130,6 +1131,7 @@ func anyEngine(random *rand.Rand, i int) impl.Engine {
 }
 
 func TestEngineDoByHand(t *testing.T) {
+	t.Parallel()
 	random := rand.New(rand.NewSource(150))
 	counts := map[string]int{}
 	for i := range 500 {
@@ -1155,6 +1157,7 @@ func TestEngineDoByHand(t *testing.T) {
 
 // An engine that is changed in one thing is right, or not, as by hand.
 func TestEngineThatIsChanged(t *testing.T) {
+	t.Parallel()
 	random := rand.New(rand.NewSource(151))
 	counts := map[bool]int{}
 	for i := range 2000 {
@@ -1383,6 +1386,7 @@ func linesFor(random *rand.Rand, e impl.Engine) []string {
 }
 
 func TestEngineChangesAndSharesNothing(t *testing.T) {
+	t.Parallel()
 	random := rand.New(rand.NewSource(153))
 	counts := map[string]int{}
 	for i := range 300 {

@@ -256,6 +256,7 @@ func wholeAuction() []step {
 
 // Promise 27, and what LogDo and LogRun tell of each line of a whole auction.
 func TestLogOfAWholeAuction(t *testing.T) {
+	t.Parallel()
 	d, lines, stands := impl.Disk{}, []string(nil), []string(nil)
 	for at, s := range wholeAuction() {
 		what := fmt.Sprintf("line %d", at)
@@ -295,6 +296,7 @@ func TestLogOfOtherAuctions(t *testing.T) {
 
 // Promise 27: in any auction just those lines stand there that changed the engine, and they lead to it again.
 func TestLogKeepsWhatChanged(t *testing.T) {
+	t.Parallel()
 	random := rand.New(rand.NewSource(160))
 	keptOnes, others := 0, 0
 	for range 60 {
@@ -369,6 +371,7 @@ func TestLogOfATornLine(t *testing.T) {
 }
 
 func TestLogOfTornLinesOfAnyAuction(t *testing.T) {
+	t.Parallel()
 	random := rand.New(rand.NewSource(28))
 	for range 8 {
 		lines := changing(anyLines(random, 10+random.Intn(60)))
@@ -408,6 +411,7 @@ func TestLogThroughCrashes(t *testing.T) {
 
 // A line that would not be written leaves the disk as it is, whatever is kept, also what is loose.
 func TestLogTornOfWhatIsNotWritten(t *testing.T) {
+	t.Parallel()
 	d := impl.Disk{}
 	for at, s := range wholeAuction() {
 		loose := impl.Disk{Safe: d.Safe, Loose: []string{recordsOf("needs"), "R"}}
@@ -601,6 +605,7 @@ func oddLines() map[string]string {
 }
 
 func TestLogOfOtherRecords(t *testing.T) {
+	t.Parallel()
 	first, last := recordsOf("station 1 10 2 3", "station 2 5 2 4"), recordsOf("must 1")
 	for what, r := range passedBy() {
 		d := impl.Disk{Safe: first + bytesByHand(r) + last + bytesByHand(r)}
@@ -754,6 +759,7 @@ func TestLogThatIsFullIsAsked(t *testing.T) {
 
 // With MaxWrites that are loose there is no room for a write, however few bytes they have.
 func TestLogOfMaxWrites(t *testing.T) {
+	t.Parallel()
 	ahead := recordsOf("station 1 10 2 3", "station 2 5 2 4")
 	for _, count := range []int{impl.MaxWrites - 2, impl.MaxWrites - 1, impl.MaxWrites} {
 		other := bytesByHand(impl.Rec{Kind: 2})
@@ -778,6 +784,7 @@ func TestLogOfMaxWrites(t *testing.T) {
 
 // What is loose is read as what is safe; it is synced with the line that is taken, and stays loose behind any other one.
 func TestLogOfWhatIsLoose(t *testing.T) {
+	t.Parallel()
 	lines := twoLines("round 2")
 	text := recordsOf(lines...)
 	for at := range len(text) + 1 {
@@ -1080,6 +1087,7 @@ func TestLogChangesAndSharesNothing(t *testing.T) {
 
 // The lines and the engine of a log are new memory each time; the disk is only looked at.
 func TestLogIsOnlyLookedAt(t *testing.T) {
+	t.Parallel()
 	random := rand.New(rand.NewSource(164))
 	for range 100 {
 		before := anyDisk(random)

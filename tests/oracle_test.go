@@ -1003,6 +1003,7 @@ func wantApart(t *testing.T, what string, first impl.AskOut, second impl.AskOut)
 }
 
 func TestAskChangesAndSharesNothing(t *testing.T) {
+	t.Parallel()
 	random := rand.New(rand.NewSource(1100))
 	lemmas := map[int64]int{}
 	for i := range 500 {

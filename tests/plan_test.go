@@ -602,6 +602,7 @@ func TestPlanFindAtMaxBudget(t *testing.T) {
 }
 
 func TestPlanFindByHand(t *testing.T) {
+	t.Parallel()
 	random := rand.New(rand.NewSource(55))
 	counts := map[int64]int{}
 	for i := range 4000 {

@@ -304,6 +304,7 @@ func TestLemmaOfMaxVars(t *testing.T) {
 }
 
 func TestProofOfMaxList(t *testing.T) {
+	t.Parallel()
 	atOnce := impl.Cnf{Vars: 5, Clauses: [][]int64{{1}, {-1}}}
 	oneUnit := impl.Cnf{Vars: 5, Clauses: [][]int64{{4}}}
 	tooMany := impl.ProofOut{Code: impl.ErrSize}
@@ -574,6 +575,7 @@ func TestWhatTheSolverSaysOfStationsIsShown(t *testing.T) {
 
 // Promise 15: what follows is so in all that makes the clauses true; where there is such, nothing is a whole proof.
 func TestTrueClausesHaveNoWholeProof(t *testing.T) {
+	t.Parallel()
 	random := rand.New(rand.NewSource(15))
 	canBeTrue, wholeOnes, followed := 0, 0, 0
 	for range 3000 {
@@ -683,6 +685,7 @@ func TestProofLeavesNoGoroutine(t *testing.T) {
 }
 
 func TestProofKeepsNothing(t *testing.T) {
+	t.Parallel()
 	random := rand.New(rand.NewSource(101))
 	c := impl.Cnf{Vars: 5, Clauses: allSigns(5)}
 	proof := impl.Solve(c, impl.MaxSolve).Lemmas

@@ -208,6 +208,7 @@ func ledToItsEnd(random *rand.Rand, i int) []impl.Stage {
 
 // Promise 29, at each step of whole auctions.
 func TestReportsHaveALineForEachThing(t *testing.T) {
+	t.Parallel()
 	random := rand.New(rand.NewSource(29))
 	counts := map[string]int{}
 	for i := range 150 {

@@ -485,6 +485,7 @@ func TestAGreaterBudgetSaysTheSameInTheSameSteps(t *testing.T) {
 
 // What is said is so: by trues that make all clauses true, by none that do, by lemmas each of which leads to a false clause at once.
 func TestSolveSaysWhatIsSo(t *testing.T) {
+	t.Parallel()
 	random := rand.New(rand.NewSource(14))
 	counts := map[int64]int{}
 	for i := range 1500 {

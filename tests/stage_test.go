@@ -591,6 +591,7 @@ func TestStageGoesOn(t *testing.T) {
 
 // The verdict at the next top behind as many steps as the budget has, and behind one more.
 func TestStageGoesOnWithinItsBudget(t *testing.T) {
+	t.Parallel()
 	table := longYes(0)
 	plan := impl.AskAll(table, 50, []int64{1, 2, 3, 4, 5, 7}, impl.MaxSolve).Plan
 	steps := impl.AskSteps(table, 51, channels(1, 7))
@@ -823,6 +824,7 @@ func paidIn(s impl.Stage) int64 {
 
 // Promise 22.
 func TestStageClosesJustIfItIsCovered(t *testing.T) {
+	t.Parallel()
 	random := rand.New(rand.NewSource(22))
 	closed, open, paid := 0, 0, 0
 	for i := range 400 {
@@ -877,6 +879,7 @@ func wantWonAlone(t *testing.T, what string, before impl.Stage, now impl.Stage) 
 
 // Promise 23.
 func TestStageGoesOnOrFails(t *testing.T) {
+	t.Parallel()
 	random := rand.New(rand.NewSource(23))
 	counts := map[string]int{}
 	for i := range 500 {
@@ -932,6 +935,7 @@ func couldComeByHand(t *testing.T, what string, c impl.Clock, now impl.Bid, coun
 
 // A round of a stage is a round of its clock, and changes nothing beside it; promises 19 and 20 hold through all its tops.
 func TestStageRoundIsAsClockRound(t *testing.T) {
+	t.Parallel()
 	random := rand.New(rand.NewSource(132))
 	counts := map[string]int{}
 	for i := range 150 {
@@ -1016,6 +1020,7 @@ func stageCalls(s impl.Stage, stays []int64) []func() impl.StageOut {
 }
 
 func TestStageChangesAndSharesNothing(t *testing.T) {
+	t.Parallel()
 	random := rand.New(rand.NewSource(134))
 	counts := map[string]int{}
 	for i := range 400 {

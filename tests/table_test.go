@@ -611,6 +611,7 @@ func nearByHand(table impl.Table, id int64) []int64 {
 }
 
 func TestDomainOf(t *testing.T) {
+	t.Parallel()
 	table := threeStations()
 	for _, c := range []struct {
 		id   int64
@@ -638,6 +639,7 @@ func TestDomainOf(t *testing.T) {
 
 // Promise 8, its second half.
 func TestGreaterTopTakesNoChannelAway(t *testing.T) {
+	t.Parallel()
 	for what, table := range rightTables() {
 		for _, s := range table.Stations {
 			before := []int64(nil)
@@ -724,6 +726,7 @@ func beyond(t impl.Table) impl.Table {
 }
 
 func TestTablesAreNotChanged(t *testing.T) {
+	t.Parallel()
 	both := rightTables()
 	maps.Copy(both, wrongTables())
 	for what, table := range both {

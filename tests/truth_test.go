@@ -812,6 +812,7 @@ func endOf(out impl.TruthOut) string {
 }
 
 func TestTruthByHand(t *testing.T) {
+	t.Parallel()
 	random := rand.New(rand.NewSource(140))
 	counts := map[string]int{}
 	for i := range 100 {
@@ -1154,6 +1155,7 @@ func TestTruthAtTheSameTime(t *testing.T) {
 }
 
 func TestTruthKeepsNothing(t *testing.T) {
+	t.Parallel()
 	random := rand.New(rand.NewSource(143))
 	values := fourValues()
 	run := keptTruth(impl.TruthRun(biddingStage(), values, []int64{79, 79}, 50))
@@ -1248,6 +1250,7 @@ func TestTruthOfListsThatShare(t *testing.T) {
 
 // What was handed in may change behind an answer, which stays as it is.
 func TestTruthStaysAsItIs(t *testing.T) {
+	t.Parallel()
 	random := rand.New(rand.NewSource(145))
 	for i := range 150 {
 		s := keptStage(truthStage(random, i))

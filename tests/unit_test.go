@@ -517,6 +517,7 @@ func wantPromise13(t *testing.T, c impl.Cnf, more [][]int64, trail []int64, got 
 
 // Promise 13.
 func TestWhatFollowsLeavesNoneOrEndsAtAFalseOne(t *testing.T) {
+	t.Parallel()
 	random := rand.New(rand.NewSource(13))
 	none, conflicts, long := 0, 0, 0
 	for i := range 6000 {
@@ -614,6 +615,7 @@ func TestUnitRunByHandOfWhatMayBeWrong(t *testing.T) {
 
 // A run that has the most to do: all clauses are gone through for each literal that follows.
 func TestUnitRunOfTheMostThereIs(t *testing.T) {
+	t.Parallel()
 	c := impl.Cnf{Vars: impl.MaxVars, Clauses: repeated(impl.MaxClauses-95, append(countUp(-15, -1), 96)...)}
 	c.Clauses = append(c.Clauses, chain(impl.MaxVars, true)...)
 	more := append(repeated(impl.MaxList-1, append(countUp(-95, -1), 96)...), []int64{1})
