@@ -19,7 +19,12 @@ var lineForm = regexp.MustCompile(strings.ReplaceAll(
 
 // lineByHand: the word and the numbers of a line, if it is one.
 func lineByHand(line string) (string, []int64, bool) {
-	if len(line) > 60 || !lineForm.MatchString(line) {
+	return partsByHand(line, lineForm)
+}
+
+// partsByHand: the word and the numbers of a line of that form, if it is one.
+func partsByHand(line string, form *regexp.Regexp) (string, []int64, bool) {
+	if len(line) > 60 || !form.MatchString(line) {
 		return "", nil, false
 	}
 	words := strings.Split(line, " ")
